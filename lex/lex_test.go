@@ -142,22 +142,28 @@ func TestErrorsOfTexts(t *testing.T) {
 	}
 }
 
+// readsPlainly fails the test unless a text is read as by the expressions of the tests.
+func readsPlainly(t *testing.T, text string) {
+	t.Helper()
+	l, notes, p, e := plainRead(text)
+	got, q, f := lex.Tokens(text)
+	if p != q || e != f {
+		t.Errorf("Tokens %q: %v %d, want %v %d", text, q, f, p, e)
+	}
+	sameTokens(t, text, got, l)
+	got, f = lex.Comments(text)
+	if e != f {
+		t.Errorf("Comments %q: %d, want %d", text, f, e)
+	}
+	sameTokens(t, text, got, notes)
+}
+
 // P1.2: each byte by itself, and in a comment.
 func TestBytes(t *testing.T) {
 	for c := 0; c < 256; c++ {
 		b := string([]byte{byte(c)})
 		for _, text := range []string{b, "a" + b + "b", "a --" + b, "a -- " + b + "\nb", "1" + b, ":" + b} {
-			l, notes, p, e := plainRead(text)
-			got, q, f := lex.Tokens(text)
-			if p != q || e != f {
-				t.Errorf("%q: %v %d, want %v %d", text, q, f, p, e)
-			}
-			sameTokens(t, text, got, l)
-			got, f = lex.Comments(text)
-			if e != f {
-				t.Errorf("%q: %d, want %d", text, f, e)
-			}
-			sameTokens(t, text, got, notes)
+			readsPlainly(t, text)
 		}
 	}
 }
@@ -232,18 +238,7 @@ func TestComments(t *testing.T) {
 func TestTokensByChance(t *testing.T) {
 	r := rand.New(rand.NewSource(12))
 	for range 5000 {
-		text := textOf(r, 12, true)
-		l, notes, p, e := plainRead(text)
-		got, q, f := lex.Tokens(text)
-		if p != q || e != f {
-			t.Fatalf("%q: %v %d, want %v %d", text, q, f, p, e)
-		}
-		sameTokens(t, text, got, l)
-		got, f = lex.Comments(text)
-		if e != f {
-			t.Fatalf("%q: %d, want %d", text, f, e)
-		}
-		sameTokens(t, text, got, notes)
+		readsPlainly(t, textOf(r, 12, true))
 	}
 }
 
