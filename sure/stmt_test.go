@@ -53,6 +53,21 @@ func TestAssign(t *testing.T) {
 	if !alike(got, want) {
 		t.Error(got)
 	}
+	l = system(t, strings.Replace(base, "%", "f do d := b; end", 1))
+	featureOf(t, l, "MAIN", "d").Type.Args = []api.Type{{Kind: api.TyClass, Name: "BOX"}}
+	got = faultsOf(t, l)
+	want[0].Err = api.ErrType
+	if !alike(got, want) {
+		t.Error(got)
+	}
+	// Nor does anything to that of an argument; Void's type is none of a variable.
+	l = system(t, strings.Replace(base, "%", "f do n := give (1, Void); end", 1))
+	featureOf(t, l, "MAIN", "give").Args[1].Type = api.Type{}
+	got = faultsOf(t, l)
+	want = []api.Fault{{Class: "MAIN", Feature: "give", At: -1, Err: api.ErrType}, {Class: "MAIN", Feature: "f", At: 1, Err: api.ErrType}}
+	if !alike(got, want) {
+		t.Error(got)
+	}
 }
 
 // P6.2: creations.
