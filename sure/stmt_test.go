@@ -60,7 +60,7 @@ func TestAssign(t *testing.T) {
 	if !alike(got, want) {
 		t.Error(got)
 	}
-	// Nor does anything to that of an argument; Void's type is none of a variable.
+	// Nothing conforms to such a type of an argument either; that of Void is none of a variable.
 	l = system(t, strings.Replace(base, "%", "f do n := give (1, Void); end", 1))
 	featureOf(t, l, "MAIN", "give").Args[1].Type = api.Type{}
 	got = faultsOf(t, l)
